@@ -405,36 +405,25 @@ func TestLong(t *testing.T) {
 	}
 }
 
-// nodes gives a row out of bytes, whatever they are.
-func nodes(b []byte) []json.Node {
-	var row []json.Node
-	for ; len(b) >= 4; b = b[4:] {
-		n := json.Node{Kind: int(b[0] % 9), Parent: int(b[1]%8) - 2, End: int(b[2]%8) - 1}
-		switch b[3] % 8 {
-		case 1:
-			n.Key = "a"
-		case 2:
-			n.Text = "1"
-		case 3:
-			n.Key, n.Text = "\xff", "\xff"
-		case 4:
-			n.Parent, n.End = math.MinInt, math.MaxInt
-		case 5:
-			n.Parent, n.End = math.MaxInt, math.MinInt
-		}
-		row = append(row, n)
+// with gives the row with another node at one of its places.
+func with(l []json.Node, at uint, n json.Node) []json.Node {
+	l = slices.Clone(l)
+	if len(l) > 0 {
+		l[at%uint(len(l))] = n
 	}
-	return row
+	return l
 }
 
 // P1: every call ends and none panics, whatever bytes and rows come.
 func FuzzEnds(f *testing.F) {
-	f.Add("", []byte{})
-	f.Add(`{"b":[1,-2.5e3,"\ud83d\ude00",{}],"a":null}`, []byte{6, 1, 2, 0, 1, 2, 3, 0})
-	f.Add("[[[[[[[[[", []byte{7, 1, 4, 0, 1, 2, 3, 1, 1, 2, 4, 0})
-	f.Add("\"\\", []byte{6, 3, 3, 0, 6, 3, 3, 0})
-	f.Add("\x00\x1f\"\xff", []byte{6, 0, 0, 4, 6, 0, 0, 5, 8, 7, 6, 3})
-	f.Fuzz(func(t *testing.T, s string, b []byte) {
+	f.Add("", uint(0), 0, 0, 0, "", "")
+	f.Add(`{"b":[1,-2.5e3,"\ud83d\ude00",{}],"a":null}`, uint(1), json.Object, 0, 6, "b", "")
+	f.Add(`{"b":[1],"a":{"c":2}}`, uint(3), json.Array, math.MaxInt, math.MaxInt, "b", "1")
+	f.Add(`[{"a":1},{"a":{}}]`, uint(1), json.Object, 1, 1, "", "")
+	f.Add(`[[[]]]`, uint(2), json.Array, 0, math.MinInt, "", "\xff")
+	f.Add("\"\\", uint(math.MaxUint), 9, -1, 1, "\xff", "\x00")
+	f.Add("\x00\x1f\"\xff", uint(0), json.String, math.MinInt, 1, "", "a")
+	f.Fuzz(func(t *testing.T, s string, at uint, kind, parent, end int, key, text string) {
 		if got, want := print.Quote(s), len(s)+2; len(got) < want || got[:1] != `"` || got[len(got)-1:] != `"` {
 			t.Errorf("Quote(%q) = %q", s, got)
 		}
@@ -446,7 +435,8 @@ func FuzzEnds(f *testing.F) {
 		if err == api.OK && canon != plain(t, s) {
 			t.Errorf("Canon(%q) = %q, wanted %q", s, canon, plain(t, s))
 		}
-		for _, l := range [][]json.Node{row, nodes(b)} {
+		n := json.Node{Kind: kind, Key: key, Text: text, Parent: parent, End: end}
+		for _, l := range [][]json.Node{row, with(row, at, n), {n}} {
 			text, err := print.Print(l)
 			_, wrong := print.Sort(l)
 			if err != json.Check(l) || wrong != err || strings.Join(pieces(l), "") != text {
