@@ -135,10 +135,10 @@ func entered(s otp.State, code, said string, now uint64) (otp.State, int) {
 	if how == 0 {
 		left := s.Tries
 		if code != said && now < s.Deadline {
-			left = max(left-1, 0)
+			left = max(left, math.MinInt+1) - 1
 		}
 		how = 5
-		if left == 0 {
+		if left <= 0 {
 			how = 2
 		}
 		if code == said {
@@ -190,7 +190,7 @@ func held(t *testing.T, s otp.State, code, said string, now uint64) {
 func TestSteps(t *testing.T) {
 	const most = math.MaxUint64
 	ticks := []uint64{0, 1, 14, 15, 16, 1 << 32, 1<<32 + 15, 1 << 63, most - 1, most}
-	for tries := range 11 {
+	for tries := -5; tries <= 11; tries++ {
 		for over := -1; over <= 7; over++ {
 			for _, deadline := range ticks {
 				for _, now := range ticks {
@@ -218,6 +218,10 @@ func TestStepsTold(t *testing.T) {
 		{s, code, 15, otp.State{Tries: 2, Deadline: 15, Over: otp.Late}, otp.Late},
 		{s, wrong, 15, otp.State{Tries: 2, Deadline: 15, Over: otp.Late}, otp.Late},
 		{otp.State{Tries: 1, Deadline: 15}, wrong, 0, otp.State{Deadline: 15, Over: otp.Out}, otp.Out},
+		{otp.State{Deadline: 15}, wrong, 0, otp.State{Tries: -1, Deadline: 15, Over: otp.Out}, otp.Out},
+		{otp.State{Tries: -3, Deadline: 15}, wrong, 14, otp.State{Tries: -4, Deadline: 15, Over: otp.Out}, otp.Out},
+		{otp.State{Tries: -3, Deadline: 15}, wrong, 15, otp.State{Tries: -3, Deadline: 15, Over: otp.Late}, otp.Late},
+		{otp.State{Deadline: 15}, code, 0, otp.State{Deadline: 15, Over: otp.Right}, otp.Right},
 		{otp.State{Tries: 1, Deadline: 15}, code, 0, otp.State{Tries: 1, Deadline: 15, Over: otp.Right}, otp.Right},
 		{otp.State{Tries: 1, Deadline: 15}, wrong, 15, otp.State{Tries: 1, Deadline: 15, Over: otp.Late}, otp.Late},
 		{otp.State{Tries: 1, Deadline: 15, Over: otp.Right}, wrong, 99, otp.State{Tries: 1, Deadline: 15, Over: otp.Right}, otp.Right},
@@ -245,16 +249,20 @@ func TestSaid(t *testing.T) {
 	}
 }
 
-// P21.2: numbers at their ends don't go round: whatever stands there, none is
-// left behind a wrong text, where there was none ahead of it.
+// P21.2: a wrong text leaves one try less, whatever number there was; only the
+// least stays, as numbers at their ends don't go round.
 func TestEnds(t *testing.T) {
-	for _, tries := range []int{math.MinInt, math.MinInt + 1, -1 << 32, -256, -1, 0} {
+	least := otp.State{Tries: math.MinInt, Deadline: 9}
+	if got, how := least.Enter(code, wrong, 0); how != otp.Out || got != (otp.State{Tries: math.MinInt, Deadline: 9, Over: otp.Out}) {
+		t.Errorf("%v: Enter = %v, %d", least, got, how)
+	}
+	for _, tries := range []int{math.MinInt + 1, math.MinInt + 2, -1 << 32, -256, -3, -1, 0, 1} {
 		s := otp.State{Tries: tries, Deadline: 9}
-		if got, how := s.Enter(code, wrong, 0); how != otp.Out || got != (otp.State{Deadline: 9, Over: otp.Out}) {
+		if got, how := s.Enter(code, wrong, 0); how != otp.Out || got != (otp.State{Tries: tries - 1, Deadline: 9, Over: otp.Out}) {
 			t.Errorf("%v: Enter = %v, %d", s, got, how)
 		}
 	}
-	for _, tries := range []int{10, 256, 257, 1 << 32, 1<<32 + 1, math.MaxInt} {
+	for _, tries := range []int{2, 10, 256, 257, 1 << 32, 1<<32 + 1, math.MaxInt} {
 		s := otp.State{Tries: tries, Deadline: 9}
 		if got, how := s.Enter(code, wrong, 0); how != otp.Wrong || got != (otp.State{Tries: tries - 1, Deadline: 9}) {
 			t.Errorf("%v: Enter = %v, %d", s, got, how)
@@ -280,7 +288,7 @@ func steps(s otp.State, code string, l ...string) (said []string, states []otp.S
 // P21.2: all texts that are entered, one behind the other, at the tick 0.
 func TestRun(t *testing.T) {
 	texts := []string{wrong, "", code, wrong, code, "x"}
-	for tries := 1; tries <= 9; tries++ {
+	for tries := -2; tries <= 9; tries++ {
 		for over := range 5 {
 			for _, deadline := range []uint64{0, 1, 99} {
 				for n := range len(texts) + 1 {
@@ -473,10 +481,8 @@ func FuzzEnds(f *testing.F) {
 	f.Add(math.MinInt, uint64(math.MaxUint64), math.MaxInt, "\xff", "\xff", "\xff", uint64(math.MaxUint64), uint64(math.MaxUint64), strings.Repeat("\xff", 10))
 	f.Fuzz(func(t *testing.T, tries int, deadline uint64, over int, key, code, said string, now, wait uint64, text string) {
 		s := otp.State{Tries: tries, Deadline: deadline, Over: over}
-		if tries > math.MinInt {
-			held(t, s, code, said, now)
-			held(t, s, code, code, now)
-		}
+		held(t, s, code, said, now)
+		held(t, s, code, code, now)
 		until := now + wait
 		if until < now {
 			until = math.MaxUint64
